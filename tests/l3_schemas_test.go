@@ -813,40 +813,9 @@ func TestPromise14TagsAscendAndHaveFields(t *testing.T) {
 	}
 }
 
-var plainValues = map[string]*regexp.Regexp{
-	"n": regexp.MustCompile(`\A(0|[1-9][0-9]{0,5})\z`),
-	"t": regexp.MustCompile(`\A'[a-z0-9 ]{0,12}'\z`),
-	"f": regexp.MustCompile(`\A(yes|no)\z`),
-}
-
-// standsAsValue reports whether a text without items and told fields is a value of a kind, as chapter 4 tells what values are, and how deep.
-func standsAsValue(s string, kind string, text string) (int, bool) {
-	if look := plainValues[kind]; look != nil {
-		return 1, look.MatchString(text)
-	}
-	name, isName := impl.KindName(kind)
-	if !isName {
-		return 1, kind[0] == '[' && text == "[]" || kind[0] == '?' && text == "-"
-	}
-	sort, _ := impl.SchemaSort(s, name)
-	tags, _ := impl.SchemaTags(s, name)
-	for _, tag := range tags {
-		_, part, _, _ := impl.SchemaField(s, name, tag)
-		head := "<" + strconv.Itoa(tag) + "="
-		if sort == "E" && text == "#"+strconv.Itoa(tag) {
-			return 1, true
-		}
-		if sort == "U" && strings.HasPrefix(text, head) && strings.HasSuffix(text, ">") {
-			deep, ok := standsAsValue(s, part, text[len(head):len(text)-1])
-			return deep + 1, ok
-		}
-	}
-	return 1, sort == "R" && text == "{}"
-}
-
 func checkStandsAsValue(t *testing.T, s string, kind string, text string) {
 	t.Helper()
-	if deep, ok := standsAsValue(s, kind, text); !ok || deep > 12 || len(text) > 400 {
+	if !impl.ValueOk(s, kind, text) {
 		t.Errorf("%q is no value of the kind %q of %q", text, kind, s)
 	}
 }
