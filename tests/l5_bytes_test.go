@@ -102,6 +102,25 @@ var readCases = []readCase{
 	{twoSchema, "@a;", "\x01\x00\x04\x00\x05\x01\x01\x06\x00\x08\x00\x09\x01\x02\x0a\x00\x7f\x00\x80\x01\x00\x00", "{5=1,9=2}", []int{1, 4, 6, 8, 10, 127, 128}},
 	{twoSchema, "@a;", "\x07\x01\x07\x00", "{}", []int{7}},
 	{twoSchema, "@b;", "\x01\x01\x01\x02\x01\x01\x00", "{}", []int{1, 2}},
+	// Tags of more than TagTop, which no type has.
+	{twoSchema, "@a;", "\xc9\x01\x00\x00", "{}", []int{201}},
+	{twoSchema, "@a;", "\x05\x01\x01\x09\x01\x02\xc9\x01\x01\x07\x00", "{5=1,9=2}", []int{201}},
+	{twoSchema, "@a;", "\x09\x01\x02\xc8\x01\x00\xc9\x01\x02\x07\xc8\xff\x01\x00\x80\x02\x00\xff\x7f\x01\x80\x80\x80\x01\x00\xbf\x84\x3d\x00\x00", "{9=2}", []int{200, 201, 255, 256, 16383, 16384, 999999}},
+	{twoSchema, "@b;", "\xbe\x84\x3d\x01\x01\xbf\x84\x3d\x01\x01\x00", "{}", []int{999998, 999999}},
+	{plainSchema, "@a;", "\xc9\x01\x01\x07\x00", "{}", []int{201}},
+	{plainSchema, "@a;", "\xff\x01\x00\x00", "{}", []int{255}},
+	{plainSchema, "@a;", "\x80\x02\x00\x00", "{}", []int{256}},
+	{plainSchema, "@a;", "\x81\x02\x01\x07\x00", "{}", []int{257}},
+	{plainSchema, "@a;", "\xbf\x84\x3d\x00\x00", "{}", []int{999999}},
+	{plainSchema, "@a;", "\x01\x01\x07\xc9\x01\x02\x07\xc8\x00", "{1=7}", []int{201}},
+	{plainSchema, "@a;", "\x01\x01\x05\xf4\x02\x03\xbf\x84=\x00", "{}", []int{372}},
+	{plainSchema, "@a;", "\x04\x06\x01\xf4\x02\x01\xff\x00\x00", "{4=+{}}", []int{}},
+	{plainSchema, "@a;", "\x04\x05\x01\xf4\x02\x00\x00\xf5\x02\x00\x00", "{4=+{}}", []int{373}},
+	{plainSchema, "?@a;", "\x01\xca\x01\x03\x80\x80\x01\x00", "+{}", nil},
+	{plainSchema, "[@a;", "\x02\xc9\x01\x00\x00\x01\x01\x06\xbf\x84\x3d\x00\x00", "[{},{1=6}]", nil},
+	{plainSchema, "@b;", "\x03\x04\xa3\x03\x00\x00", "<3={}>", nil},
+	{fullSchema, "@r;", "\xc8\x01\x01\x14\xc9\x01\x01\x14\x00", "{200=#20}", []int{201}},
+	{fullSchema, "@o;", "\xc9\x01\x00\x00", "{}", []int{201}},
 	// Bytes of such a field that are no bytes of any value.
 	{plainSchema, "@a;", "\x01\x01\x07\x03\x00\x00", "{1=7}", []int{3}},
 	{plainSchema, "@a;", "\x01\x01\x07\x03\x01\x80\x00", "{1=7}", []int{3}},
@@ -147,26 +166,26 @@ var notBytes = []struct {
 	{"", "??n", []string{"\x01", "\x01\x01", "\x01\x02\x05", "\x02\x01\x05", "\x01\x00\x00"}},
 	{plainSchema, "@a;", []string{
 		"", "\x01", "\x01\x01", "\x01\x01\x07", "\x01\x02\x07\x00", "\x01\x00\x00", "\x01\x01\x07\x00\x00", "\x00\x00", "\x01\x01\x07\x01\x00", "\x80\x00",
-		// Tags that come twice, do not ascend, are 0 in other bytes, or more than TagTop.
-		"\x01\x01\x07\x01\x01\x07\x00", "\x03\x00\x03\x00\x00", "\x02\x02\x01\x00\x01\x01\x07\x00", "\x03\x00\x01\x01\x07\x00", "\x09\x00\x03\x00\x00", "\xc8\x01\x00\x01\x01\x07\x00", "\x80\x00\x01\x07\x00", "\xc9\x01\x00\x00", "\xc9\x01\x01\x07\x00", "\xff\x01\x00\x00", "\x80\x02\x00\x00", "\x81\x02\x01\x07\x00", "\xbf\x84\x3d\x00\x00",
+		// Tags that come twice, do not ascend, or are 0 in other bytes; also where they are more than TagTop.
+		"\x01\x01\x07\x01\x01\x07\x00", "\x03\x00\x03\x00\x00", "\x02\x02\x01\x00\x01\x01\x07\x00", "\x03\x00\x01\x01\x07\x00", "\x09\x00\x03\x00\x00", "\xc8\x01\x00\x01\x01\x07\x00", "\x80\x00\x01\x07\x00", "\xc9\x01\x00\xc9\x01\x00\x00", "\xca\x01\x00\xc9\x01\x00\x00", "\xc9\x01\x00\x01\x01\x07\x00", "\xc9\x01\x00\xc8\x01\x00\x00", "\x80\x02\x00\xff\x01\x00\x00", "\xbf\x84\x3d\x00\xbe\x84\x3d\x00\x00", "\xbf\x84\x3d\x00\x01\x01\x07\x00",
 		// Numbers with a needless last digit 0, or too great, in a tag, how many, or a value; and ones that are cut off.
-		"\x81\x00\x01\x07\x00", "\x01\x81\x00\x07\x00", "\x01\x02\x87\x00\x00", "\x83\x00\x00\x00", "\x03\x80\x00\x00", "\x03\x81\x00\x07\x00", "\xc0\x84\x3d\x00\x00", "\x03\xc0\x84\x3d\x00", "\x03\xff\xff\xff\x7f\x00", "\x01\x03\xc0\x84\x3d\x00", "\x83\x80\x00\x00\x00", "\x83", "\x03\x80", "\x03\x80\x00",
+		"\x81\x00\x01\x07\x00", "\x01\x81\x00\x07\x00", "\x01\x02\x87\x00\x00", "\x83\x00\x00\x00", "\x03\x80\x00\x00", "\x03\x81\x00\x07\x00", "\xc0\x84\x3d\x00\x00", "\x03\xc0\x84\x3d\x00", "\x03\xff\xff\xff\x7f\x00", "\x01\x03\xc0\x84\x3d\x00", "\x83\x80\x00\x00\x00", "\x83", "\x03\x80", "\x03\x80\x00", "\xc9\x81\x00\x00\x00", "\xc0\x84\x3d\x01\x07\x00", "\xff\xff\x7f\x00\x00", "\xc9\x81\x80\x01\x00\x00", "\xc9\x01", "\xc9", "\xbf\x84",
 		// A value that has fewer bytes, or more of them, than it tells.
 		"\x01\x01\x80\x00", "\x01\x01\x80\x01\x00", "\x01\x03\x80\x01\x00", "\x01\x02\x07\x07\x00", "\x02\x01\x01\x07\x00", "\x02\x04\x01\x01ab\x00", "\x02\x02\x01\x01a\x00", "\x02\x03\x01\x02a\x00", "\x04\x03\x01\x00\x00\x00", "\x04\x01\x01\x00", "\x04\x00\x00",
 		// The same where the field is one that the type has not.
-		"\x03\x01\x00", "\x03\x02\x07\x00", "\x03\x05\x00", "\x03", "\x03\x00", "\x03\x00\x00\x00",
+		"\x03\x01\x00", "\x03\x02\x07\x00", "\x03\x05\x00", "\x03", "\x03\x00", "\x03\x00\x00\x00", "\xc9\x01\x01\x00", "\xc9\x01\x02\x07\x00", "\xc9\x01\x00", "\xc9\x01\x00\x00\x00", "\xbf\x84\x3d\x05\x00",
 		// Values that are none of their field's kind, where another one would be left out.
 		"\x02\x02\x01\x05\x00", "\x04\x01\x02\x00", "\x04\x02\x02\x00\x00", "\x04\x04\x01\x01\x01\x05\x00", "{}",
 	}},
 	{plainSchema, "?@a;", []string{"", "\x01", "\x02\x00", "\x00\x00", "\x01\x00\x00"}},
 	{plainSchema, "[@a;", []string{"\x01", "\x01\x01\x01\x07", "\x02\x00", "\x01\x00\x00"}},
 	{plainSchema, "@b;", []string{
-		"", "\x00", "\x00\x00", "\x01", "\x01\x00", "\x01\x01", "\x01\x01\x05\x00", "\x01\x02\x05\x05", "\x01\x02\x05", "\x02\x01\x00", "\x04\x01\x00", "\x03\x00", "\x03\x02\x00\x00", "\x03\x02\x00", "\x03\x01\x01", "\x81\x00\x01\x05", "\x01\x81\x00\x05", "\x01\x02\x85\x00", "\xc9\x01\x01\x05", "\x81\x02\x01\x05", "\x01\x03\xc0\x84\x3d", "\x01\x01\x80\x01", "\x03\x03\x03\x00\x01",
+		"", "\x00", "\x00\x00", "\x01", "\x01\x00", "\x01\x01", "\x01\x01\x05\x00", "\x01\x02\x05\x05", "\x01\x02\x05", "\x02\x01\x00", "\x04\x01\x00", "\x03\x00", "\x03\x02\x00\x00", "\x03\x02\x00", "\x03\x01\x01", "\x81\x00\x01\x05", "\x01\x81\x00\x05", "\x01\x02\x85\x00", "\xc9\x01\x01\x05", "\x81\x02\x01\x05", "\xbf\x84\x3d\x01\x05", "\x01\x03\xc0\x84\x3d", "\x01\x01\x80\x01", "\x03\x03\x03\x00\x01",
 	}},
-	{plainSchema, "@c;", []string{"", "\x00", "\x03", "\x04", "\x81\x00", "\x80\x01", "\x81\x02", "\x01\x00", "\x01\x01", "#1"}},
+	{plainSchema, "@c;", []string{"", "\x00", "\x03", "\x04", "\x81\x00", "\x80\x01", "\x81\x02", "\xc9\x01", "\xbf\x84\x3d", "\x01\x00", "\x01\x01", "#1"}},
 	{plainSchema, "[@c;", []string{"\x01", "\x01\x00", "\x01\x03", "\x02\x01\x03", "\x02\x01"}},
 	{fullSchema, "@r;", []string{"\x02\x01\x07\x01\x01\x05\x00", "\x05\x01\x02\x00", "\xc8\x01\x01\x04\x00", "\xc8\x00\x01\x14\x00", "\x0a\x05\x05\x03\x09\x01\x04\x00", "\x0a\x05\x05\x03\x08\x01\x03\x00", "\x0a\x05\x05\x02\x09\x01\x03\x00", "\x0a\x06\x05\x03\x09\x01\x03\x00\x00"}},
-	{fullSchema, "@o;", []string{"", "\x01", "\x01\x00", "\x00\x00", "\x01\x01\x00", "\xc9\x01\x00\x00"}},
+	{fullSchema, "@o;", []string{"", "\x01", "\x01\x00", "\x00\x00", "\x01\x01\x00", "\xc9\x01\x01\x00"}},
 	{"Ea=127:x,128:y,200:z\n", "@a;", []string{"\x01", "\x7e", "\xff\x00", "\x80", "\x80\x00", "\x81\x01", "\xc8", "\xc9\x01", "\xc8\x01\x00", "\xc8\x81\x00"}},
 }
 
@@ -204,7 +223,7 @@ func slowTags(s string) ([]slowTag, int, bool) {
 		tag, tagSize := slowNumber(s[at:])
 		many, manySize := slowNumber(s[at+tagSize:])
 		begin := at + tagSize + manySize
-		if tagSize == 0 || manySize == 0 || tag <= last || tag > 200 || begin+many > len(s) {
+		if tagSize == 0 || manySize == 0 || tag <= last || begin+many > len(s) {
 			return tags, 0, false
 		}
 		at, last = begin+many, tag
@@ -368,7 +387,7 @@ func slowSized(s string) string {
 func slowBytesField(s string, tag int) (string, bool) {
 	tags, _, _ := slowTags(s)
 	for _, told := range tags {
-		if told.tag == tag && len(s) <= 600 {
+		if told.tag == tag && tag <= 200 && len(s) <= 600 {
 			return told.part, true
 		}
 	}
@@ -497,7 +516,7 @@ func (m valueMaker) form(c schemaCase, kind string, left int) string {
 func (m valueMaker) recordForm(c schemaCase, def schemaType, left int) string {
 	parts := map[int]string{}
 	for range m.r.Intn(3) {
-		parts[1+m.r.Intn(200)] = strings.Repeat(m.junk(), 1+m.r.Intn(2))
+		parts[m.tag()] = strings.Repeat(m.junk(), 1+m.r.Intn(2))
 	}
 	for _, f := range def.fields {
 		delete(parts, f.tag)
@@ -518,6 +537,17 @@ func (m valueMaker) recordForm(c schemaCase, def schemaType, left int) string {
 		form += slowBytes(tag) + m.sized(parts[tag])
 	}
 	return form + "\x00"
+}
+
+// tag is one that bytes of a record may tell; now and then it is more than TagTop.
+func (m valueMaker) tag() int {
+	switch m.r.Intn(8) {
+	case 0:
+		return 201 + m.r.Intn(200)
+	case 1:
+		return 201 + m.r.Intn(999999-200)
+	}
+	return 1 + m.r.Intn(200)
 }
 
 // sized is how many bytes there are, and these; once in a while it is one more or less.
@@ -810,6 +840,7 @@ func TestBytesNumbers(t *testing.T) {
 		needless := s[:len(s)-1] + string([]byte{s[len(s)-1] + 128, 0})
 		checkNoForm(t, "", "n", needless)
 		checkNoForm(t, plainSchema, "@a;", "\x01"+slowSized(needless)+"\x00")
+		checkNoForm(t, plainSchema, "@a;", needless+"\x00\x00")
 	}
 	for _, s := range []string{"\xc0\x84\x3d", "\xff\x84\x3d", "\xc0\x84\x3e", "\x80\x80\x40", "\xff\xff\x7f"} {
 		checkNoForm(t, "", "n", s)
@@ -980,6 +1011,8 @@ func TestBytesDeepTop(t *testing.T) {
 			{"@n;", nested(n, "\x09", "", "\x00", "\x00"), 1},
 			{"@n;", nested(n, "\x01", "", "\x09\x03\x01\x01\x00\x00", "\x00"), n + 1},
 			{"@n;", "\x09" + slowSized(nested(n, "\x01", "", "\x00", "\x00")) + "\x00", 1},
+			{"@n;", nested(n, "\xc9\x01", "", "\x00", "\x00"), 1},
+			{"@n;", nested(n, "\x01", "", "\xbf\x84\x3d\x03\x01\x01\x00\x00", "\x00"), n + 1},
 			{"@n;", nested(11, "\x01", "", "\x09"+slowSized(nested(n, "\x01", "", "\x00", "\x00"))+"\x00", "\x00"), 12},
 		} {
 			if isRead := checkLikeSlowForm(t, c, look.kind, look.bytes); isRead != (look.deep <= 12) {
@@ -1003,16 +1036,21 @@ func TestBytesDeepTop(t *testing.T) {
 
 func TestBytesTags(t *testing.T) {
 	c := schemaRead(t, "Ra=1:x:n,19:y:n,200:z:n\nUb=1:x:n,19:y:n,200:z:n\nEc=1:x,19:y,200:z\n")
+	tags := []int{16382, 16383, 16384, 16385, 65537, 999998, 999999}
 	for tag := range 1030 {
+		tags = append(tags, tag)
+	}
+	for _, tag := range tags {
 		s := slowBytes(tag)
 		own := tag == 1 || tag == 19 || tag == 200
 		for _, look := range []struct {
 			kind, bytes string
 			read        bool
 		}{
-			{"@a;", s + "\x01\x08\x00", tag >= 1 && tag <= 200},
-			{"@a;", s + "\x01\x80\x00", tag >= 1 && tag <= 200 && !own},
-			{"@a;", "\x13\x01\x08" + s + "\x01\x08\x00", tag > 19 && tag <= 200},
+			{"@a;", s + "\x01\x08\x00", tag >= 1},
+			{"@a;", s + "\x01\x80\x00", tag >= 1 && !own},
+			{"@a;", "\x13\x01\x08" + s + "\x01\x08\x00", tag > 19},
+			{"@a;", "\xc8\x01\x01\x08" + s + "\x01\x08\x00", tag > 200},
 			{"@a;", s + "\x01\x08\x13\x01\x08\x00", tag >= 1 && tag < 19},
 			{"@b;", s + "\x01\x08", own},
 			{"@c;", s, own},
@@ -1043,9 +1081,9 @@ func TestBytesTagsOfARecord(t *testing.T) {
 		}
 		checkLikeSlowFields(t, s)
 	})
-	// The tag 255 is more than TagTop.
-	if reads != 16 {
-		t.Errorf("%d rows of tags are read, want 16", reads)
+	// Of five tags there are so many rows of up to four that ascend.
+	if want := 1 + 5 + 10 + 10 + 5; reads != want {
+		t.Errorf("%d rows of tags are read, want %d", reads, want)
 	}
 }
 
@@ -1129,11 +1167,11 @@ func TestBytesFieldInvalid(t *testing.T) {
 		// Behind the byte 0, or behind one that is cut off.
 		{"\x00\x01\x01\x07\x00", 1}, {"\x01\x01\x07\x00\x02\x01\x07\x00", 2}, {"\x01\x05\x07\x02\x01\x07", 2}, {"\x01\x04\x07\x02\x01\x07", 2},
 		// Tags that do not ascend, or come twice, ahead of the field or by it.
-		{"\x03\x00\x02\x00\x05\x01\x07\x00", 5}, {"\x03\x00\x03\x00\x05\x01\x07\x00", 5}, {"\x05\x00\x03\x01\x07\x00", 3}, {"\xc8\x01\x00\x05\x00\x00", 5},
+		{"\x03\x00\x02\x00\x05\x01\x07\x00", 5}, {"\x03\x00\x03\x00\x05\x01\x07\x00", 5}, {"\x05\x00\x03\x01\x07\x00", 3}, {"\xc8\x01\x00\x05\x00\x00", 5}, {"\xc9\x01\x00\x05\x01\x07\x00", 5}, {"\xbf\x84\x3d\x00\xc8\x01\x01\x07\x00", 200},
 		// Numbers that are none.
 		{"\x81\x00\x01\x07\x00", 1}, {"\x01\x81\x00\x07\x00", 1}, {"\x01\x80\x00\x02\x01\x07\x00", 2}, {"\x80\x00\x02\x01\x07\x00", 2}, {"\x81\x80\x00\x00\x02\x01\x07\x00", 2}, {"\x01\xc0\x84\x3d\x02\x01\x07\x00", 2}, {"\x01\xff\xff\xff\x7f\x02\x01\x07\x00", 2}, {"\x01\x80", 1}, {"\x80", 128}, {"\x80\x01", 128},
-		// Tags that are none.
-		{"\x00\x01\x07\x00", 0}, {"\xc9\x01\x01\x07\x00", 201}, {"\x80\x02\x01\x07\x00", 256}, {"\x01\x01\x07\x00", 257}, {"\x01\x01\x07\x00", 65537}, {"\xbf\x84\x3d\x01\x07\x00", 999999},
+		// Tags that are not in 1 to TagTop; also where they are told.
+		{"\x00\x01\x07\x00", 0}, {"\xc9\x01\x01\x07\x00", 201}, {"\x01\x01\x07\xc9\x01\x01\x07\x00", 201}, {"\xf4\x02\x03\xbf\x84=\x00", 372}, {"\x80\x02\x01\x07\x00", 256}, {"\x01\x01\x07\x00", 257}, {"\x01\x01\x07\x00", 65537}, {"\xbf\x84\x3d\x01\x07\x00", 999999},
 	} {
 		checkBytesField(t, look.bytes, look.tag, "", false)
 		checkLikeSlowFields(t, look.bytes)
@@ -1212,7 +1250,7 @@ func TestPromise26BytesCanon(t *testing.T) {
 }
 
 func TestPromise27BytesSkip(t *testing.T) {
-	skips := 0
+	skips, above := 0, 0
 	for _, f := range readForms(t, 8000, valueMaker.typeKind) {
 		tags, ok := impl.BytesSkip(f.c.text, f.kind, f.bytes)
 		def, isRecord := recordOf(f.c, f.kind)
@@ -1221,13 +1259,16 @@ func TestPromise27BytesSkip(t *testing.T) {
 		}
 		for _, tag := range tags {
 			skips++
-			if _, found := fieldOf(def, tag); found || tag < 1 || tag > 200 {
+			if tag > 200 {
+				above++
+			}
+			if _, found := fieldOf(def, tag); found || tag < 1 {
 				t.Errorf("BytesSkip(%q, %q, %q) = %v, but %d is no tag, or is one of the type", f.c.text, f.kind, f.bytes, tags, tag)
 			}
 		}
 	}
-	if skips < 1000 {
-		t.Errorf("only %d fields are left out", skips)
+	if skips < 1000 || above < 100 {
+		t.Errorf("only %d fields are left out, %d with tags of more than TagTop", skips, above)
 	}
 }
 
@@ -1270,7 +1311,7 @@ func TestPromise29NoPartAndNoLongerBytes(t *testing.T) {
 
 func TestPromise30FurtherField(t *testing.T) {
 	m := valueMaker{rand.New(rand.NewSource(30))}
-	further := 0
+	further, above := 0, 0
 	for _, v := range someRecords(t, 4000) {
 		form, _ := impl.BytesPut(v.c.text, v.kind, v.text)
 		def, _ := recordOf(v.c, v.kind)
@@ -1280,13 +1321,19 @@ func TestPromise30FurtherField(t *testing.T) {
 		}
 		for range 8 {
 			tag := last + 1 + m.r.Intn(8)
-			if m.r.Intn(8) == 0 {
-				tag = 200
+			switch m.r.Intn(8) {
+			case 0:
+				tag = 200 + m.r.Intn(2)
+			case 1:
+				tag = m.tag()
 			}
-			if _, found := fieldOf(def, tag); found || tag <= last || tag > 200 {
+			if _, found := fieldOf(def, tag); found || tag <= last {
 				continue
 			}
 			further++
+			if tag > 200 {
+				above++
+			}
 			junk := m.junk()
 			if m.r.Intn(10) == 0 {
 				junk = strings.Repeat("\xff", m.r.Intn(600-len(form)-5))
@@ -1295,11 +1342,15 @@ func TestPromise30FurtherField(t *testing.T) {
 			checkGet(t, v.c.text, v.kind, more, v.text, true)
 			checkSkip(t, v.c.text, v.kind, more, []int{tag}, true)
 			checkCanon(t, v.c.text, v.kind, more, false)
-			checkBytesField(t, more, tag, junk, true)
+			if tag > 200 {
+				// Such a field is left out, but cannot be asked for.
+				junk = ""
+			}
+			checkBytesField(t, more, tag, junk, tag <= 200)
 		}
 	}
-	if further < 1000 {
-		t.Errorf("only %d further fields are told", further)
+	if further < 1000 || above < 500 {
+		t.Errorf("only %d further fields are told, %d with tags of more than TagTop", further, above)
 	}
 }
 
